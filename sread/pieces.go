@@ -6,6 +6,7 @@ import (
 
 	"sheave/api"
 	"sheave/bcode"
+	"sheave/units"
 )
 
 // What a run's digits stand between; they are signs of texts, too.
@@ -84,6 +85,12 @@ func (p piece) put(t []rune) ([]rune, bool) {
 	if !p.isRun() {
 		return append(t, p.sign), p.right
 	}
-	signs, right := Run(p.digits)
-	return append(t, signs...), right
+	u, whole := unitsOf(p.digits)
+	t = append(t, units.Read(u)...)
+	if !whole {
+		// A sign of the text alone: what is left over is no unit, and so it has
+		// none among the signs of the digits, that Run tells.
+		return append(t, api.Broken), false
+	}
+	return t, units.Right(u)
 }

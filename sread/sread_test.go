@@ -68,10 +68,17 @@ func oneByOne(s []byte) string {
 	return string(t)
 }
 
-// expectedRun tells by a row of bits, one by one, what Run answers.
-func expectedRun(d string) ([]rune, bool) {
+// run is what is told of digits.
+type run struct {
+	signs []rune
+	right bool // what Run tells beside the signs
+	over  bool // whether 0xFFFD stands behind the signs in a text
+}
+
+// expectedRun tells by a row of bits, one by one, what is expected of digits.
+func expectedRun(d string) run {
 	if !digits.MatchString(d) {
-		return nil, false
+		return run{}
 	}
 	bits := ""
 	for _, c := range d {
@@ -88,10 +95,8 @@ func expectedRun(d string) ([]rune, bool) {
 	text := utf16.Decode(units)
 	// A surrogate that stands alone is laid as another unit.
 	right := slices.Equal(utf16.Encode(text), units)
-	if len(bits) >= 6 || strings.Contains(bits, "1") {
-		return append(text, 0xFFFD), false
-	}
-	return text, right
+	over := len(bits) >= 6 || strings.Contains(bits, "1")
+	return run{text, right && !over, over}
 }
 
 // expected is what is expected of octets.
@@ -99,11 +104,14 @@ func expected(s []byte) answers {
 	var text []rune
 	shifts, right := 0, true
 	for _, found := range onePiece.FindAllStringSubmatch(oneByOne(s), -1) {
-		whole, plus, run := found[0], found[1], found[2]
+		whole, plus, behind := found[0], found[1], found[2]
 		switch {
 		case plus != "":
-			signs, ok := expectedRun(run)
-			text, right = append(text, signs...), right && ok
+			r := expectedRun(behind)
+			text, right = append(text, r.signs...), right && r.right
+			if r.over {
+				text = append(text, 0xFFFD)
+			}
 			shifts++
 		case whole == "+-":
 			text = append(text, '+')
@@ -140,9 +148,9 @@ func check(t *testing.T, s []byte) {
 func checkRun(t *testing.T, d []byte) {
 	t.Helper()
 	got, right := Run(d)
-	want, wantRight := expectedRun(oneByOne(d))
-	if !slices.Equal(got, want) || right != wantRight {
-		t.Fatalf("Run(%q) = %X, %t, want %X, %t", d, got, right, want, wantRight)
+	want := expectedRun(oneByOne(d))
+	if !slices.Equal(got, want.signs) || right != want.right {
+		t.Fatalf("Run(%q) = %X, %t, want %X, %t", d, got, right, want.signs, want.right)
 	}
 	if len(got) > len(d) {
 		t.Fatalf("Run(%q) has %d signs", d, len(got))
@@ -228,11 +236,11 @@ func TestRunCases(t *testing.T) {
 		// Two surrogates are one sign, one that stands alone is none.
 		{"2D3eAA", []rune{0x1F600}, true}, {"2ADcAA", []rune{0x10000}, true}, {"2//f/w", []rune{0x10FFFF}, true}, {"1//gAA", []rune{0xD7FF, 0xE000}, true}, {"2AA", []rune{0xFFFD}, false}, {"3AA", []rune{0xFFFD}, false}, {"2D0AYQ", []rune{0xFFFD, 'a'}, false}, {"AGHYPQ", []rune{'a', 0xFFFD}, false}, {"3gDYPQ", []rune{0xFFFD, 0xFFFD}, false}, {"2D3YPd4A", []rune{0xFFFD, 0x1F600}, false}, {"2D3eAN4A", []rune{0x1F600, 0xFFFD}, false},
 		// One, two, four, five and seven digits leave over six bits or more, though they are 0.
-		{"A", []rune{0xFFFD}, false}, {"AA", []rune{0xFFFD}, false}, {"/", []rune{0xFFFD}, false}, {"AB", []rune{0xFFFD}, false}, {"AGEA", []rune{'a', 0xFFFD}, false}, {"AGEAA", []rune{'a', 0xFFFD}, false}, {"AGEAYgA", []rune{'a', 'b', 0xFFFD}, false}, {"AGEAYgAA", []rune{'a', 'b', 0}, true}, {"AGEAYgAAA", []rune{'a', 'b', 0, 0xFFFD}, false},
+		{"A", nil, false}, {"AA", nil, false}, {"/", nil, false}, {"//", nil, false}, {"AB", nil, false}, {"AGEA", []rune("a"), false}, {"AGEAA", []rune("a"), false}, {"AGEAYgA", []rune("ab"), false}, {"AGEAYgAA", []rune{'a', 'b', 0}, true}, {"AGEAYgAAA", []rune{'a', 'b', 0}, false},
 		// Fewer bits that are left over must be 0: two of three digits, four of six.
-		{"AGF", []rune{'a', 0xFFFD}, false}, {"AGG", []rune{'a', 0xFFFD}, false}, {"AGH", []rune{'a', 0xFFFD}, false}, {"AGI", []rune("b"), true}, {"AGEAYh", []rune{'a', 'b', 0xFFFD}, false}, {"AGEAYi", []rune{'a', 'b', 0xFFFD}, false}, {"AGEAYk", []rune{'a', 'b', 0xFFFD}, false}, {"AGEAYo", []rune{'a', 'b', 0xFFFD}, false}, {"AGEAYw", []rune{'a', 'c'}, true},
-		// What is left over stands behind a surrogate that stands alone, too.
-		{"2AB", []rune{0xFFFD, 0xFFFD}, false}, {"2AAA", []rune{0xFFFD, 0xFFFD}, false},
+		{"AGF", []rune("a"), false}, {"AGG", []rune("a"), false}, {"AGH", []rune("a"), false}, {"AGI", []rune("b"), true}, {"AGEAYh", []rune("ab"), false}, {"AGEAYi", []rune("ab"), false}, {"AGEAYk", []rune("ab"), false}, {"AGEAYo", []rune("ab"), false}, {"AGEAYw", []rune{'a', 'c'}, true},
+		// A surrogate that stands alone is the one 0xFFFD that Run tells of it, whatever is left over.
+		{"2AB", []rune{0xFFFD}, false}, {"2AAA", []rune{0xFFFD}, false}, {"3AB", []rune{0xFFFD}, false}, {"//0A", []rune{0xFFFD}, false},
 		// Of octets that are no digits there is nothing.
 		{"=", nil, false}, {"-", nil, false}, {"AGE-", nil, false}, {"AGE=", nil, false}, {",,8", nil, false}, {" AGE", nil, false}, {"AG E", nil, false}, {"AG\nE", nil, false}, {"AGE\x00", nil, false}, {"\x80AGE", nil, false}, {"AG\xFFE", nil, false}, {"\u0130GE", nil, false}, {"AGE.", nil, false},
 	}
@@ -242,6 +250,7 @@ func TestRunCases(t *testing.T) {
 			t.Errorf("Run(%q) = %X, %t, want %X, %t", x.d, got, right, x.want, x.right)
 		}
 		checkRun(t, []byte(x.d))
+		check(t, []byte("+"+x.d+"-"))
 	}
 }
 
@@ -251,7 +260,10 @@ func TestRunOfEveryTwoOctetsAndThreeDigits(t *testing.T) {
 	}
 	every([]byte(alphabet), 3, func(d []byte) { checkRun(t, d) })
 	for many := range 9 {
-		every([]byte("AQ3/"), many, func(d []byte) { checkRun(t, d) })
+		every([]byte("AQ3/"), many, func(d []byte) {
+			checkRun(t, d)
+			check(t, append([]byte{'+'}, d...))
+		})
 	}
 }
 
@@ -268,7 +280,8 @@ func TestRunOfEveryOctetAtEachPlace(t *testing.T) {
 	}
 }
 
-// Each unit alone, and with each number in the bits that are left over.
+// Each unit alone, and with each number in the bits that are left over: Run tells
+// the unit's sign, and in a text 0xFFFD stands behind it.
 func TestRunOfEveryUnit(t *testing.T) {
 	for u := range 1 << 16 {
 		right := code([]uint16{uint16(u)})
@@ -279,13 +292,17 @@ func TestRunOfEveryUnit(t *testing.T) {
 			sign = 0xFFFD
 		}
 		for over := range 4 {
-			got, ok := Run([]byte{right[0], right[1], alphabet[last+over]})
+			s := []byte{'+', right[0], right[1], alphabet[last+over], '-'}
+			got, ok := Run(s[1:4])
+			if len(got) != 1 || got[0] != sign || ok != (over == 0 && !surrogate) {
+				t.Fatalf("of the unit %X, with %d left over, Run tells %X, %t", u, over, got, ok)
+			}
 			want := []rune{sign, 0xFFFD}
 			if over == 0 {
 				want = want[:1]
 			}
-			if !slices.Equal(got, want) || ok != (over == 0 && !surrogate) {
-				t.Fatalf("of the unit %X, with %d left over, Run tells %X, %t", u, over, got, ok)
+			if text := Read(s); !slices.Equal(text, want) {
+				t.Fatalf("of the unit %X, with %d left over, Read tells %X", u, over, text)
 			}
 		}
 	}
@@ -295,9 +312,10 @@ func TestRunOfSurrogates(t *testing.T) {
 	for many := range 5 {
 		every(halves, many, func(u []uint16) {
 			d := code(u)
-			checkRun(t, []byte(d))
-			checkRun(t, []byte(d+"A"))
-			checkRun(t, []byte(d+"AB"))
+			for _, behind := range []string{"", "A", "AB"} {
+				checkRun(t, []byte(d+behind))
+				check(t, []byte("+"+d+behind+"."))
+			}
 		})
 	}
 	for first := uint16(0xD800); first <= 0xDBFF; first++ {
@@ -327,7 +345,7 @@ func TestReadCases(t *testing.T) {
 		{"+AOk", []rune{0xE9}, 1, true}, {"+AOk-", []rune{0xE9}, 1, true}, {"+AOk--", []rune{0xE9, '-'}, 1, true}, {"+AOk---", []rune{0xE9, '-', '-'}, 1, true}, {"+AOk-AOk-", []rune("\u00E9AOk-"), 1, true}, {"+AOk.", []rune{0xE9, '.'}, 1, true}, {"+AOk.-", []rune("\u00E9.-"), 1, true}, {"+AOk=", []rune{0xE9, '='}, 1, true}, {"+AOk=-", []rune("\u00E9=-"), 1, true}, {"+AOk \r\n", []rune("\u00E9 \r\n"), 1, true}, {"+AOk\x00", []rune("\u00E9\x00"), 1, true}, {"+AOk\x80", []rune{0xE9, 0xFFFD}, 1, false}, {"+AOk\x80-", []rune{0xE9, 0xFFFD, '-'}, 1, false},
 		{"+AOk-+AOk-", []rune{0xE9, 0xE9}, 2, true}, {"+AOk- +AOk", []rune("\u00E9 \u00E9"), 2, true}, {"+AOk-+-", []rune{0xE9, '+'}, 1, true}, {"+AOk-+", []rune{0xE9, '+'}, 1, false}, {"+-+AOk-", []rune{'+', 0xE9}, 1, true}, {"+AOk,+AOk", []rune("\u00E9,\u00E9"), 2, true},
 		// A run that is not right.
-		{"+A", []rune{0xFFFD}, 1, false}, {"+A-", []rune{0xFFFD}, 1, false}, {"+AA-", []rune{0xFFFD}, 1, false}, {"+AAA-", []rune{0}, 1, true}, {"+AOl-", []rune{0xE9, 0xFFFD}, 1, false}, {"+AOkA-a", []rune{0xE9, 0xFFFD, 'a'}, 1, false}, {"+2D0-", []rune{0xFFFD}, 1, false}, {"+3gA-", []rune{0xFFFD}, 1, false}, {"+2D3eAA-", []rune{0x1F600}, 1, true}, {"+A-+AOk-", []rune{0xFFFD, 0xE9}, 2, false}, {"a/b 1+1", []rune{'a', '/', 'b', ' ', '1', 0xFFFD}, 1, false},
+		{"+A", []rune{0xFFFD}, 1, false}, {"+A-", []rune{0xFFFD}, 1, false}, {"+/", []rune{0xFFFD}, 1, false}, {"+AGF-", []rune{'a', 0xFFFD}, 1, false}, {"+AGEA.", []rune{'a', 0xFFFD, '.'}, 1, false}, {"+2AB-", []rune{0xFFFD, 0xFFFD}, 1, false}, {"+2AAA-", []rune{0xFFFD, 0xFFFD}, 1, false}, {"+AA-", []rune{0xFFFD}, 1, false}, {"+AAA-", []rune{0}, 1, true}, {"+AOl-", []rune{0xE9, 0xFFFD}, 1, false}, {"+AOkA-a", []rune{0xE9, 0xFFFD, 'a'}, 1, false}, {"+2D0-", []rune{0xFFFD}, 1, false}, {"+3gA-", []rune{0xFFFD}, 1, false}, {"+2D3eAA-", []rune{0x1F600}, 1, true}, {"+A-+AOk-", []rune{0xFFFD, 0xE9}, 2, false}, {"a/b 1+1", []rune{'a', '/', 'b', ' ', '1', 0xFFFD}, 1, false},
 		// Surrogates of two runs are none of one sign, and bits are not put together either.
 		{"+2D0-+3gA-", []rune{0xFFFD, 0xFFFD}, 2, false}, {"+2D3e-+AA-", []rune{0xFFFD, 0xFFFD, 0xFFFD}, 2, false}, {"+AO-k-", []rune{0xFFFD, 'k', '-'}, 1, false},
 		// A run may have what needs none.
